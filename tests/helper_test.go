@@ -6,21 +6,28 @@ import (
 	"testing"
 )
 
-// spare is what stands in the spare capacity of guarded lists.
-const spare = -12321
+// spare and spareWord are what stands in the spare capacity of guarded lists, other and otherWord what is written over lists:
+// different from spare ones, so that memory that is shared only in what is spare is found as well.
+const (
+	spare     = -12321
+	other     = -12322
+	spareWord = "?spare?"
+	otherWord = "?other?"
+)
 
 // guarded is a list with spare capacity that remembers what it, and what is behind it, was.
-type guarded struct {
-	list []int
-	was  []int
+type guarded[T comparable] struct {
+	list []T
+	was  []T
 }
 
-func guard(list []int) guarded {
-	whole := append(slices.Clone(list), spare, spare, spare)
-	return guarded{list: whole[:len(list)], was: slices.Clone(whole)}
+// guard makes a guarded copy of a list, with three times behind in its spare capacity.
+func guard[T comparable](list []T, behind T) guarded[T] {
+	whole := append(slices.Clone(list), behind, behind, behind)
+	return guarded[T]{list: whole[:len(list)], was: slices.Clone(whole)}
 }
 
-func (g guarded) check(t *testing.T, what string) {
+func (g guarded[T]) check(t *testing.T, what string) {
 	t.Helper()
 	if now := g.list[:len(g.was)]; !slices.Equal(now, g.was) {
 		t.Fatalf("%s: an argument was written into: %v, before %v", what, now, g.was)
@@ -28,17 +35,17 @@ func (g guarded) check(t *testing.T, what string) {
 }
 
 // scribble overwrites a list with all its spare capacity.
-func scribble(list []int) {
+func scribble[T any](list []T, with T) {
 	list = list[:cap(list)]
 	for i := range list {
-		list[i] = spare - 1
+		list[i] = with
 	}
 }
 
-// listsUpTo calls do with every list of at most most numbers, each of choice.
-func listsUpTo(most int, choice []int, do func([]int)) {
-	var grow func(list []int)
-	grow = func(list []int) {
+// listsUpTo calls do with every list of at most most elements, each of choice.
+func listsUpTo[T any](most int, choice []T, do func([]T)) {
+	var grow func(list []T)
+	grow = func(list []T) {
 		do(slices.Clone(list))
 		if len(list) == most {
 			return
@@ -47,7 +54,7 @@ func listsUpTo(most int, choice []int, do func([]int)) {
 			grow(append(list, x))
 		}
 	}
-	grow(make([]int, 0, most))
+	grow(make([]T, 0, most))
 }
 
 // outside are numbers that are not in 0..999999.

@@ -429,7 +429,7 @@ func checkBounded(t *testing.T, b []int) {
 // No function of the chapter writes into an argument, whether it is valid or not.
 func TestBasesArgumentsStay(t *testing.T) {
 	for _, list := range append(goodBases(), wrongBases()...) {
-		b := guard(list)
+		b := guard(list, spare)
 		impl.BasesOk(b.list)
 		impl.NestedOk(b.list)
 		for _, n := range []int{-1, 0, 39, 999999, 1000000} {
@@ -437,7 +437,7 @@ func TestBasesArgumentsStay(t *testing.T) {
 		}
 		b.check(t, "bases")
 		for _, given := range [][]int{nil, {0}, make([]int, len(list)), {9, 1, 1}, {12, 40, 3}, {-1, 1000000, 5, 5, 5}, {3, 1, 0, 2, 1, 1}} {
-			counts := guard(given)
+			counts := guard(given, spare)
 			impl.SumOf(b.list, counts.list)
 			impl.GreedyOk(b.list, counts.list)
 			b.check(t, "bases")
@@ -449,16 +449,16 @@ func TestBasesArgumentsStay(t *testing.T) {
 // Counts are new memory, also in what is spare of it, and nothing is kept from call to call.
 func TestCountsAreNew(t *testing.T) {
 	for _, list := range goodBases() {
-		b := guard(list)
+		b := guard(list, spare)
 		first := impl.CountsOf(b.list, 39)
 		want := slices.Clone(first)
 		second := impl.CountsOf(b.list, 39)
-		scribble(first)
+		scribble(first, other)
 		b.check(t, "bases")
 		if !slices.Equal(second, want) || !slices.Equal(impl.CountsOf(b.list, 39), want) {
 			t.Fatalf("%v: counts share memory: %v, not %v", list, second, want)
 		}
-		scribble(b.list)
+		scribble(b.list, other)
 		if !slices.Equal(second, want) {
 			t.Fatalf("%v: counts share memory with the bases: %v, not %v", list, second, want)
 		}
