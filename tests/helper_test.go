@@ -57,6 +57,42 @@ func listsUpTo[T any](most int, choice []T, do func([]T)) {
 	grow(make([]T, 0, most))
 }
 
+// ordersOf calls do with every row of words of which none is taken twice.
+func ordersOf(words []string, do func([]string)) {
+	listsUpTo(len(words), words, func(list []string) {
+		if len(slices.Compact(slices.Sorted(slices.Values(list)))) == len(list) {
+			do(list)
+		}
+	})
+}
+
+// putEverywhere calls do with a row with a word more at each place, and with that word instead of each of its words.
+func putEverywhere(row []string, word string, do func([]string)) {
+	for place := range len(row) + 1 {
+		do(slices.Insert(slices.Clone(row), place, word))
+		if place < len(row) {
+			instead := slices.Clone(row)
+			instead[place] = word
+			do(instead)
+		}
+	}
+}
+
+// changesOf calls do with a row with one word less, more, or another one, or two words beside each other exchanged.
+func changesOf(row []string, words []string, do func([]string)) {
+	for place := range row {
+		do(slices.Delete(slices.Clone(row), place, place+1))
+		if place > 0 {
+			swapped := slices.Clone(row)
+			swapped[place-1], swapped[place] = swapped[place], swapped[place-1]
+			do(swapped)
+		}
+	}
+	for _, word := range words {
+		putEverywhere(row, word, do)
+	}
+}
+
 // outside are numbers that are not in 0..999999.
 func outside() []int {
 	return []int{-1, -2, -10, -999999, 1000000, 1000001, math.MaxInt32, math.MinInt32, math.MaxInt, math.MinInt}

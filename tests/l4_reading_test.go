@@ -9,11 +9,11 @@ import (
 	"loop.example/numberwords/impl"
 )
 
-// numbersBy tells the number of each text of a tongue, by names that are put together from the least on.
-func numbersBy(t *testing.T, tongue impl.Tongue) map[string]int {
+// numbersIn tells the number of each text of a list in which "" stands for none.
+func numbersIn(t *testing.T, tongue impl.Tongue, texts []string) map[string]int {
 	t.Helper()
 	numbers := map[string]int{}
-	for n, text := range textsBy(tongue) {
+	for n, text := range texts {
 		if text == "" {
 			continue
 		}
@@ -23,6 +23,12 @@ func numbersBy(t *testing.T, tongue impl.Tongue) map[string]int {
 		numbers[text] = n
 	}
 	return numbers
+}
+
+// numbersBy tells the number of each text of a tongue, by names that are put together from the least on.
+func numbersBy(t *testing.T, tongue impl.Tongue) map[string]int {
+	t.Helper()
+	return numbersIn(t, tongue, textsBy(tongue))
 }
 
 // readAs is what words or a text are read as by a table of all names: -1 if they are none.
@@ -140,9 +146,8 @@ func TestWordsInTheWrongOrder(t *testing.T) {
 	numbers := numbersBy(t, tens())
 	words := strings.Fields("two thousand hundred ten five")
 	named := 0
-	listsUpTo(5, words, func(list []string) {
-		sorted := slices.Compact(slices.Sorted(slices.Values(list)))
-		if len(sorted) != 5 {
+	ordersOf(words, func(list []string) {
+		if len(list) != 5 {
 			return
 		}
 		text := strings.Join(list, " ")
@@ -225,14 +230,7 @@ func TestReadStrangers(t *testing.T) {
 				if !ok {
 					continue
 				}
-				for place := range len(name) + 1 {
-					checkReadName(t, tongue, slices.Insert(slices.Clone(name), place, stranger), -1)
-					if place < len(name) {
-						instead := slices.Clone(name)
-						instead[place] = stranger
-						checkReadName(t, tongue, instead, -1)
-					}
-				}
+				putEverywhere(name, stranger, func(list []string) { checkReadName(t, tongue, list, -1) })
 			}
 		}
 	}
@@ -398,23 +396,7 @@ func TestReadChangedNames(t *testing.T) {
 		}
 		for _, n := range []int{1, 3, 11, 24, 99, 234, 1012, 2099, 24750, 99999} {
 			name, _ := impl.NameOf(tongue, n)
-			for place := range name {
-				check(slices.Delete(slices.Clone(name), place, place+1))
-				for _, word := range words {
-					check(slices.Insert(slices.Clone(name), place, word))
-					instead := slices.Clone(name)
-					instead[place] = word
-					check(instead)
-				}
-				if place > 0 {
-					swapped := slices.Clone(name)
-					swapped[place-1], swapped[place] = swapped[place], swapped[place-1]
-					check(swapped)
-				}
-			}
-			for _, word := range words {
-				check(append(slices.Clone(name), word))
-			}
+			changesOf(name, words, check)
 		}
 	}
 }

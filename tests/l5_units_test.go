@@ -83,17 +83,7 @@ func turnedBy(tongue impl.Tongue, and string) []string {
 // numbersTurned tells the number of each turned text of a tongue.
 func numbersTurned(t *testing.T, tongue impl.Tongue, and string) map[string]int {
 	t.Helper()
-	numbers := map[string]int{}
-	for n, text := range turnedBy(tongue, and) {
-		if text == "" {
-			continue
-		}
-		if before, ok := numbers[text]; ok {
-			t.Fatalf("%v: %q would be %d and %d", tongue, text, before, n)
-		}
-		numbers[text] = n
-	}
-	return numbers
+	return numbersIn(t, tongue, turnedBy(tongue, and))
 }
 
 // checkReadTurned fails unless words are read as a number, or refused if that is -1.
@@ -512,10 +502,7 @@ func TestReadTurnedInTheWrongOrder(t *testing.T) {
 	numbers := numbersTurned(t, tens(), "and")
 	words := strings.Fields("two thousand hundred five and ten")
 	turned, named := 0, 0
-	listsUpTo(6, words, func(list []string) {
-		if len(slices.Compact(slices.Sorted(slices.Values(list)))) != len(list) {
-			return
-		}
+	ordersOf(words, func(list []string) {
 		text := strings.Join(list, " ")
 		want := readAs(numbers, text)
 		checkReadTens(t, text, want)
@@ -544,14 +531,7 @@ func TestReadTurnedStrangers(t *testing.T) {
 				if !ok {
 					continue
 				}
-				for place := range len(name) + 1 {
-					checkReadTurned(t, tongue, slices.Insert(slices.Clone(name), place, stranger), "and", -1)
-					if place < len(name) {
-						instead := slices.Clone(name)
-						instead[place] = stranger
-						checkReadTurned(t, tongue, instead, "and", -1)
-					}
-				}
+				putEverywhere(name, stranger, func(list []string) { checkReadTurned(t, tongue, list, "and", -1) })
 			}
 		}
 	}
@@ -626,23 +606,7 @@ func TestReadChangedTurnedNames(t *testing.T) {
 		}
 		for _, n := range []int{1, 3, 11, 24, 34, 99, 234, 261, 1012, 2099, 24761, 99999} {
 			name, _ := impl.TurnedName(tongue, n, "and")
-			for place := range name {
-				check(slices.Delete(slices.Clone(name), place, place+1))
-				for _, word := range words {
-					check(slices.Insert(slices.Clone(name), place, word))
-					instead := slices.Clone(name)
-					instead[place] = word
-					check(instead)
-				}
-				if place > 0 {
-					swapped := slices.Clone(name)
-					swapped[place-1], swapped[place] = swapped[place], swapped[place-1]
-					check(swapped)
-				}
-			}
-			for _, word := range words {
-				check(append(slices.Clone(name), word))
-			}
+			changesOf(name, words, check)
 		}
 	}
 }
