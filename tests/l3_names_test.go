@@ -28,13 +28,18 @@ func namedTongues() []impl.Tongue {
 	)
 }
 
-// textsBy makes the texts of the names of all numbers up to MaxNamed, "" for none, without taking any number apart:
-// from each base on, all names of fewer times than it tells are put in front of it, and all names of less behind it.
+// textsBy makes the texts of the names of all numbers up to MaxNamed, "" for none.
 func textsBy(t impl.Tongue) []string {
-	texts := make([]string, 100000)
+	return textsTo(t, 99999)
+}
+
+// textsTo makes the texts of the names of all numbers up to one, "" for none, without taking any number apart:
+// from each base on, all names of fewer times than it tells are put in front of it, and all names of less behind it.
+func textsTo(t impl.Tongue, most int) []string {
+	texts := make([]string, most+1)
 	copy(texts[1:], t.Units)
 	for i := 1; i < len(t.Bases); i++ {
-		base, next := t.Bases[i], 100000
+		base, next := t.Bases[i], most+1
 		if i+1 < len(t.Bases) {
 			next = min(next, t.Bases[i+1])
 		}
