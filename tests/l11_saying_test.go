@@ -606,7 +606,7 @@ func TestUnsaidOfTexts(t *testing.T) {
 	}
 }
 
-// Promise 53: rows told by hand up to MaxSaid times.
+// Promise 53: rows told one by one up to MaxSaid times.
 func TestSaidAgain(t *testing.T) {
 	one := []string{"1", "11", "21", "1211", "111221", "312211", "13112221", "1113213211", "31131211131221", "13211311123113112211", "11131221133112132113212221"}
 	checkAgain(t, "1", one...)
@@ -692,7 +692,7 @@ func TestSaidAgainOfRows(t *testing.T) {
 	}
 }
 
-// Promise 54: told by hand: rows that meet at once, after some times, and never.
+// Promise 54: pairs told one by one: rows that meet at once, after some times, and never.
 func TestFallsApart(t *testing.T) {
 	for _, c := range []struct {
 		a    string
